@@ -74,14 +74,16 @@ func TestLastLook(t *testing.T) {
 				t.Errorf("the ring: %v", got)
 			}
 
-			l, m = lay(t, 3)
-			y = begin(t, l, m, 5, 1, spins)
-			y.busy()
-			y.looksLast()
-			m.Store(99, l.Word(layout.GlobSize), 1)
-			y.goes(acts.Load(l.Word(layout.GlobSize)), acts.Load(l.Word(layout.GlobSize)), acts.Load(l.Word(layout.GlobHead)))
-			y.releases()
-			y.findsNext(3)
+			for _, size := range sizes {
+				l, m = lay(t, 3)
+				y = begin(t, l, m, 5, 1, spins)
+				y.busy()
+				y.looksLast()
+				m.Store(99, l.Word(layout.GlobSize), size)
+				y.goes(acts.Load(l.Word(layout.GlobSize)), acts.Load(l.Word(layout.GlobSize)), acts.Load(l.Word(layout.GlobHead)))
+				y.releases()
+				y.findsNext(3)
+			}
 		}
 	}
 }
@@ -252,25 +254,27 @@ func TestBehindQueue(t *testing.T) {
 
 // Promises 21.1 and 21.2: where GlobSize is not 0 behind the count, and nothing is there to be pulled, or nothing any more, it begins anew with the processor that was got.
 func TestBehindQueueNothing(t *testing.T) {
-	for _, gone := range []bool{false, true} {
-		l, m := lay(t, 3)
-		y := begin(t, l, m, 5, 1, true)
-		y.leaves()
-		m.Store(99, l.Word(layout.GlobSize), 1)
-		y.acquires()
-		y.goes(acts.Load(l.Word(layout.GlobSize)))
-		y.getsProc(1)
-		y.spins()
-		if gone {
-			m.Store(99, l.Word(layout.GlobSize), 0)
+	for _, size := range sizes {
+		for _, gone := range []bool{false, true} {
+			l, m := lay(t, 3)
+			y := begin(t, l, m, 5, 1, true)
+			y.leaves()
+			m.Store(99, l.Word(layout.GlobSize), size)
+			y.acquires()
+			y.goes(acts.Load(l.Word(layout.GlobSize)))
+			y.getsProc(1)
+			y.spins()
+			if gone {
+				m.Store(99, l.Word(layout.GlobSize), 0)
+			}
+			y.goes(acts.Load(l.Word(layout.GlobSize)))
+			if !gone {
+				y.goes(acts.Load(l.Word(layout.GlobHead)))
+			}
+			y.releases()
+			y.runs()
+			y.findsNext(4)
 		}
-		y.goes(acts.Load(l.Word(layout.GlobSize)))
-		if !gone {
-			y.goes(acts.Load(l.Word(layout.GlobHead)))
-		}
-		y.releases()
-		y.runs()
-		y.findsNext(4)
 	}
 }
 

@@ -170,30 +170,48 @@ func TestTakesSome(t *testing.T) {
 	}
 }
 
+// sizes are some for which one of three processors takes one, two, and many; where none is there, one pull tells.
+var sizes = []uint64{1, 3, gs}
+
 // Promise 21.1: where the queue is looked at behind the ring, and nothing is taken, it goes on.
 func TestTakesNone(t *testing.T) {
-	for _, gone := range []bool{false, true} {
-		for _, spins := range []bool{false, true} {
-			l, m := lay(t, 3)
-			m.Store(99, l.Word(layout.GlobSize), 1)
-			y := begin(t, l, m, 5, 0, spins)
-			y.hasNone()
-			if gone {
-				m.Store(99, l.Word(layout.GlobSize), 0)
-			}
-			y.acquires()
-			y.goes(acts.Load(l.Word(layout.GlobSize)))
-			if !gone {
-				y.goes(acts.Load(l.Word(layout.GlobHead)))
-			}
-			y.releases()
-			if spins {
-				y.visits(false, 1, 2)
-			} else {
-				y.considers()
+	for _, size := range sizes {
+		for _, gone := range []bool{false, true} {
+			for _, spins := range []bool{false, true} {
+				l, m := lay(t, 3)
+				m.Store(99, l.Word(layout.GlobSize), size)
+				y := begin(t, l, m, 5, 0, spins)
+				y.hasNone()
+				if gone {
+					m.Store(99, l.Word(layout.GlobSize), 0)
+				}
+				y.acquires()
+				y.goes(acts.Load(l.Word(layout.GlobSize)))
+				if !gone {
+					y.goes(acts.Load(l.Word(layout.GlobHead)))
+				}
+				y.releases()
+				if spins {
+					y.visits(false, 1, 2)
+				} else {
+					y.considers()
+				}
 			}
 		}
 	}
+}
+
+// Promise 21.1: of one processor, and without draws, the lock is released right behind the one load that finds none, and all is as where GlobSize was 0.
+func TestTakesNoneOfOne(t *testing.T) {
+	l, m := acts.Lay(t, api.Config{Procs: 1, Threads: 1, Gs: 1})
+	y := begin(t, l, m, 0, 0, false)
+	y.goes(acts.Load(l.Proc(0, layout.Preempt)), acts.Load(l.Proc(0, layout.Turns)), acts.Load(l.Word(layout.GlobSize)))
+	m.Store(99, l.Word(layout.GlobSize), 2)
+	y.goes(acts.Load(l.Proc(0, layout.Next)), acts.Load(l.Proc(0, layout.Head)), acts.Load(l.Proc(0, layout.Tail)), acts.Load(l.Word(layout.GlobSize)))
+	y.acquires()
+	y.goes(acts.Load(l.Word(layout.GlobSize)), acts.Load(l.Word(layout.GlobHead)))
+	y.releases()
+	y.considers()
 }
 
 // Promises 21.1 and 21.2: a next one, or a ring's first one, that another one took between is not found, and not in the hand.

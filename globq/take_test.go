@@ -29,10 +29,7 @@ func takeOf(l *layout.Layout, queue []int, n, p int, tail uint64) []beat {
 	for i := range n {
 		does(load(l.Word(layout.GlobHead)))
 		if len(queue) == 0 {
-			if i > 0 { // the first one, where there is none, is no end
-				break
-			}
-			continue
+			break
 		}
 		one, link := queue[0], uint64(0)
 		queue = queue[1:]
@@ -232,25 +229,22 @@ func TestTakeBetween(t *testing.T) {
 	holds(t, x, 4)
 }
 
-// Promises 13.1 and 13.2: where there was none at first, and others put one behind that, it comes into the ring, and none is the one that was taken.
+// Promises 13.1 and 13.2: where the first one that is pulled is none, there is no other one, however many were to be taken, and whatever others put behind that.
 func TestTakeFirstIsNone(t *testing.T) {
-	l, m := lay(t)
-	m.Store(0, l.Word(layout.GlobSize), 2)
-	x := globq.NewTake(l, 3, 1, 0)
-	step(t, m, x, 3, load(l.Word(layout.GlobSize)), false)
-	step(t, m, x, 3, load(l.Word(layout.GlobHead)), false)
-	put(t, l, m, 5)
-	step(t, m, x, 3, load(l.Word(layout.GlobHead)), false)
-	step(t, m, x, 3, load(l.G(5, layout.GLink)), false)
-	holds(t, x)
-	step(t, m, x, 3, store(l.Word(layout.GlobHead), 0), false)
-	is(t, x, api.None)
-	holds(t, x, 5)
-	all(t, m, x)
-	is(t, x, api.None)
-	holds(t, x)
-	if got, _ := ring.Gs(l, m, 1); !slices.Equal(got, []int{5}) {
-		t.Errorf("the ring: %v", got)
+	for _, size := range []uint64{1, 2, 3, 200, round, math.MaxUint64} {
+		for _, most := range []int{0, 1, 2, -1} {
+			l, m := lay(t)
+			m.Store(0, l.Word(layout.GlobSize), size)
+			x := globq.NewTake(l, 3, 1, most)
+			step(t, m, x, 3, load(l.Word(layout.GlobSize)), false)
+			step(t, m, x, 3, load(l.Word(layout.GlobHead)), true)
+			put(t, l, m, 5, 2)
+			before := m.Words()
+			rests(t, m, x)
+			is(t, x, api.None)
+			holds(t, x)
+			changed(t, m, before, nil)
+		}
 	}
 }
 
