@@ -100,6 +100,38 @@ func All(t T, m *cell.Mem, x flow.Stepper) {
 	t.Fatalf("a machine that does not end")
 }
 
+// Acquire are the accesses by which who has a lock, if nobody has it.
+func Acquire(l *layout.Layout, lock, who int) []Act {
+	return []Act{Add(l.Ticket(lock), 1), Load(l.Serving(lock)), Store(l.Owner(lock), uint64(who)+1)}
+}
+
+// Release are the accesses by which who has a lock gives it back.
+func Release(l *layout.Layout, lock int) []Act {
+	return []Act{Store(l.Owner(lock), 0), Add(l.Serving(lock), 1)}
+}
+
+// Same goes on with x until y is done, which goes on at a memory of its own that is as m is: each step of x is to do just what y's does, and the last one is to end x, or not. Behind each of them look looks at both.
+func Same(t T, m *cell.Mem, x, y Machine, done bool, look func()) {
+	t.Helper()
+	other, _ := cell.Of(m.Words())
+	for n := range steps {
+		clock, theirs := m.Clock(), other.Clock()
+		over := y.Step(other)
+		if got := x.Step(m); got != (over && done) || x.Done() != got {
+			t.Errorf("step %d: %v, Done %v, want %v", n, got, x.Done(), over && done)
+		}
+		if m.Clock()-clock != other.Clock()-theirs || m.Last() != other.Last() {
+			t.Fatalf("step %d: %d accesses, the last one %v, want %v", n, m.Clock()-clock, m.Last(), other.Last())
+			return
+		}
+		look()
+		if over {
+			return
+		}
+	}
+	t.Fatalf("a machine that does not end")
+}
+
 // Lay is a layout of a config, and its memory.
 func Lay(t T, c api.Config) (*layout.Layout, *cell.Mem) {
 	t.Helper()

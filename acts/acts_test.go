@@ -7,6 +7,7 @@ import (
 	"turnspit/api"
 	"turnspit/cell"
 	"turnspit/flow"
+	"turnspit/lock"
 )
 
 // told is a test that counts what it is told.
@@ -107,6 +108,56 @@ func TestAll(t *testing.T) {
 	if !c.Done() {
 		t.Errorf("not done")
 	}
+}
+
+// A lock is had, and given back, by the accesses that are listed: those of the machines that do so.
+func TestLock(t *testing.T) {
+	for _, which := range []int{0, 1} {
+		l, m := acts.Lay(t, api.Config{Procs: 1, Threads: 2, Gs: 1})
+		x, y := lock.New(l, which, 1), lock.NewRelease(l, which, 1)
+		for i, a := range acts.Acquire(l, which, 1) {
+			acts.Step(t, m, x, 1, a, i == 2)
+		}
+		for i, a := range acts.Release(l, which) {
+			acts.Step(t, m, y, 1, a, i == 1)
+		}
+		if !x.Done() || !y.Done() || m.Clock() != 5 {
+			t.Errorf("lock %d: %d accesses", which, m.Clock())
+		}
+	}
+}
+
+// both holds one machine against another one, at a memory of 5, 6, which is handed back.
+func both(t *testing.T, what string, wrong bool, x, y acts.Machine, done bool) (m *cell.Mem, looks int) {
+	t.Helper()
+	m, _ = cell.Of([]uint64{5, 6})
+	told := &told{}
+	acts.Same(told, m, x, y, done, func() { looks++ })
+	if told.wrong+told.fatal > 0 != wrong {
+		t.Errorf("%s: %v", what, *told)
+	}
+	return m, looks
+}
+
+// One machine does what the other one does, step by step, at a memory that is as its own is; then it is done, or not.
+func TestSame(t *testing.T) {
+	add, store := api.Access{Kind: api.AcAdd, At: 1, New: 3}, api.Access{Kind: api.AcStore, At: 0, New: 9}
+	chain := func(who int, l ...api.Access) acts.Machine { return flow.New(who, l) }
+	m, looks := both(t, "the same", false, chain(1, add, store), chain(1, add, store), true)
+	if a, _ := m.Peek(0); a != 9 || looks != 2 || m.Clock() != 2 {
+		t.Errorf("%d, %d looks, %d accesses", a, looks, m.Clock())
+	}
+	_, looks = both(t, "one that goes on", false, chain(1, add, store), chain(1, add), false)
+	if looks != 1 {
+		t.Errorf("%d looks", looks)
+	}
+	both(t, "one that was to go on", true, chain(1, add), chain(1, add), false)
+	both(t, "one that was to be done", true, chain(1, add, store), chain(1, add), true)
+	both(t, "one that is done too early", true, chain(1, add), chain(1, add, store), true)
+	both(t, "another one's", true, chain(2, add), chain(1, add), true)
+	both(t, "another access", true, chain(1, add), chain(1, store), true)
+	both(t, "one access more", true, &odd{2, true, true}, chain(1, api.Access{Kind: api.AcLoad}), true)
+	both(t, "no end", true, chain(1, api.Access{At: 9}), chain(1, api.Access{At: 9}), true)
 }
 
 // A config's memory has as many words as its layout, all 0; a config that may not be is told.
