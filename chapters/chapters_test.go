@@ -43,8 +43,9 @@ type reader struct {
 
 	is     seen         // what it tells, but for what machines tell
 	holds  func() []int // tells what is in the hand
-	gotten func() int   // tells the processor that was got
+	gotten func() int   // tells the processor that was got, or is in the hand
 	some   *wake.Wake   // tells the processor in the hand, and whether it counts
+	each   func()       // looks at what it goes on with, behind each step
 
 	yield func(flow.Stepper) bool
 	next  func() (flow.Stepper, bool)
@@ -72,7 +73,14 @@ func open(l *layout.Layout, a *goro.Arena, t, p int, read func(s *reader)) *read
 
 // step does a step.
 func (s *reader) step(m *cell.Mem) bool {
-	if s.now != nil && s.now.Step(m) {
+	if s.now == nil {
+		return true
+	}
+	done := s.now.Step(m)
+	if s.each != nil {
+		s.each()
+	}
+	if done {
 		s.now, _ = s.next()
 	}
 	return s.now == nil
@@ -108,7 +116,9 @@ func (s *reader) access(a api.Access) uint64 {
 }
 
 // What a chapter's lines say, one method each.
-func (s *reader) load(at int) uint64 { return s.access(api.Access{Kind: api.AcLoad, At: at}) }
+func (s *reader) load(at int) uint64   { return s.access(api.Access{Kind: api.AcLoad, At: at}) }
+func (s *reader) word(w int) uint64    { return s.load(s.l.Word(w)) }
+func (s *reader) puts(w int, n uint64) { s.store(s.l.Word(w), n) }
 func (s *reader) store(at int, w uint64) {
 	s.access(api.Access{Kind: api.AcStore, At: at, New: w})
 }
@@ -142,6 +152,7 @@ type env struct {
 	l    *layout.Layout
 	a, b *cell.Mem
 	roll uint64
+	also func() // stores something, too, each other time
 }
 
 // below is a number below n.
@@ -170,6 +181,10 @@ func (e *env) all(make func() flow.Stepper) {
 
 // stores stores something somewhere, likely where it is looked at.
 func (e *env) stores() {
+	if e.also != nil && e.below(2) == 0 {
+		e.also()
+		return
+	}
 	p, g := e.below(e.l.Config().Procs), e.below(e.l.Config().Gs)
 	w := uint64(g) + 1
 	switch e.below(18) {
@@ -222,6 +237,7 @@ type machine struct {
 type subject struct {
 	make func(e *env, l *layout.Layout, a *goro.Arena, t, p int) (machine, func(s *reader))
 	want []string // ways that it is to go, again and again
+	also func(e *env)
 }
 
 // against holds a machine against its chapter, many times.
@@ -232,6 +248,9 @@ func against(t *testing.T, subject subject) {
 		l, m := acts.Lay(t, api.Config{Procs: 1 + seed%3, Threads: 6, Gs: 3})
 		other, _ := cell.Of(m.Words())
 		e := &env{l: l, a: m, b: other, roll: uint64(seed)}
+		if subject.also != nil {
+			e.also = func() { subject.also(e) }
+		}
 		for range e.below(12) {
 			e.stores()
 		}
